@@ -6,58 +6,21 @@ import (
 	"testing"
 
 	"gauntlet/api"
+	"gauntlet/samples"
 	"gauntlet/words"
 )
 
 // none is the undefined edge.
 var none = api.Edge{To: api.None, Out: api.None}
 
-// machine returns a machine with these rows.
-func machine(inputs, outputs int, rows ...[]api.Edge) api.Machine {
-	return api.Machine{Inputs: inputs, Outputs: outputs, Rows: rows}
-}
-
 // example returns the machine of the chapter's examples.
 func example() api.Machine {
-	return machine(2, 2, []api.Edge{{To: 1, Out: 0}, {To: 0, Out: 1}}, []api.Edge{none, {To: 0, Out: 0}})
-}
-
-// ring returns a machine with one input and 16 outputs that goes from each state to the next one, and from the last one to the first one.
-func ring(states int) api.Machine {
-	m := machine(1, 16)
-	for s := range states {
-		m.Rows = append(m.Rows, []api.Edge{{To: (s + 1) % states, Out: s % 16}})
-	}
-	return m
-}
-
-// largest returns a machine with as many states, inputs and outputs as there may be: the input i leads from s to s + i + 1, with the output i.
-func largest() api.Machine {
-	m := machine(16, 16)
-	for s := range 64 {
-		row := make([]api.Edge, 16)
-		for i := range row {
-			row[i] = api.Edge{To: (s + i + 1) % 64, Out: i}
-		}
-		m.Rows = append(m.Rows, row)
-	}
-	return m
+	return samples.Machine(2, 2, []api.Edge{{To: 1, Out: 0}, {To: 0, Out: 1}}, []api.Edge{none, {To: 0, Out: 0}})
 }
 
 // changed returns the example after a change.
 func changed(change func(m *api.Machine)) api.Machine {
-	m := example()
-	change(&m)
-	return m
-}
-
-// clone returns the same machine in other memory.
-func clone(m api.Machine) api.Machine {
-	rows := slices.Clone(m.Rows)
-	for s, row := range rows {
-		rows[s] = slices.Clone(row)
-	}
-	return api.Machine{Inputs: m.Inputs, Outputs: m.Outputs, Rows: rows}
+	return samples.Changed(example(), change)
 }
 
 // equal reports whether machines have the same numbers and rows, valid or not.
@@ -65,95 +28,9 @@ func equal(a, b api.Machine) bool {
 	return a.Inputs == b.Inputs && a.Outputs == b.Outputs && slices.EqualFunc(a.Rows, b.Rows, slices.Equal)
 }
 
-// machinesWith returns all machines with so many states and inputs whose edges are of a list, valid or not.
-func machinesWith(states, inputs, outputs int, edges []api.Edge) []api.Machine {
-	all := []api.Machine{machine(inputs, outputs, make([][]api.Edge, states)...)}
-	for n := range states * inputs {
-		var more []api.Machine
-		for _, m := range all {
-			for _, x := range edges {
-				next := clone(m)
-				next.Rows[n/inputs] = append(next.Rows[n/inputs], x)
-				more = append(more, next)
-			}
-		}
-		all = more
-	}
-	return all
-}
-
-// edgesOf returns the undefined edge, and all others to so many states with so many outputs.
-func edgesOf(states, outputs int) []api.Edge {
-	all := []api.Edge{none}
-	for to := range states {
-		for out := range outputs {
-			all = append(all, api.Edge{To: to, Out: out})
-		}
-	}
-	return all
-}
-
 // small returns all machines with two states, two inputs and two outputs.
 func small() []api.Machine {
-	return machinesWith(2, 2, 2, edgesOf(2, 2))
-}
-
-// refused is a machine that is not valid, with its error.
-type refused struct {
-	name string
-	m    api.Machine
-	want api.Errno
-}
-
-// invalid returns machines that are not valid.
-func invalid() []refused {
-	with := func(s, i, to, out int) api.Machine {
-		return changed(func(m *api.Machine) { m.Rows[s][i] = api.Edge{To: to, Out: out} })
-	}
-	return []refused{
-		{"zero", api.Machine{}, api.ErrArg},
-		{"no rows", machine(2, 2), api.ErrArg},
-		{"empty rows", machine(2, 2, make([][]api.Edge, 2)...), api.ErrArg},
-		{"no inputs", machine(0, 2, []api.Edge{}), api.ErrArg},
-		{"no inputs, but edges", changed(func(m *api.Machine) { m.Inputs = 0 }), api.ErrArg},
-		{"negative inputs", changed(func(m *api.Machine) { m.Inputs = -1 }), api.ErrArg},
-		{"least inputs", changed(func(m *api.Machine) { m.Inputs = math.MinInt }), api.ErrArg},
-		{"fewer inputs than edges", changed(func(m *api.Machine) { m.Inputs = 1 }), api.ErrArg},
-		{"more inputs than edges", changed(func(m *api.Machine) { m.Inputs = 3 }), api.ErrArg},
-		{"no outputs", changed(func(m *api.Machine) { m.Outputs = 0 }), api.ErrArg},
-		{"no outputs and no edges that are defined", machine(1, 0, []api.Edge{none}), api.ErrArg},
-		{"negative outputs", machine(1, -1, []api.Edge{none}), api.ErrArg},
-		{"least outputs", changed(func(m *api.Machine) { m.Outputs = math.MinInt }), api.ErrArg},
-		{"too few outputs", changed(func(m *api.Machine) { m.Outputs = 1 }), api.ErrArg},
-		{"first row too short", changed(func(m *api.Machine) { m.Rows[0] = m.Rows[0][:1] }), api.ErrArg},
-		{"last row too short", changed(func(m *api.Machine) { m.Rows[1] = m.Rows[1][:1] }), api.ErrArg},
-		{"last row nil", changed(func(m *api.Machine) { m.Rows[1] = nil }), api.ErrArg},
-		{"last row too long", changed(func(m *api.Machine) { m.Rows[1] = append(m.Rows[1], none) }), api.ErrArg},
-		{"rows too short and too long", machine(2, 2, []api.Edge{none}, []api.Edge{none, none, none}), api.ErrArg},
-		{"state too great", with(0, 0, 2, 0), api.ErrArg},
-		{"state too great in the last edge", with(1, 1, 2, 0), api.ErrArg},
-		{"state negative", with(0, 0, -2, 0), api.ErrArg},
-		{"output too great", with(0, 0, 1, 2), api.ErrArg},
-		{"output negative", with(0, 1, 1, -2), api.ErrArg},
-		{"a state, but no output", with(0, 0, 1, -1), api.ErrArg},
-		{"an output, but no state", with(1, 1, -1, 0), api.ErrArg},
-		{"neither, but not None", with(1, 0, -2, -2), api.ErrArg},
-		{"no state, output too small", with(1, 0, -1, -2), api.ErrArg},
-		{"extreme", with(1, 1, math.MinInt, math.MaxInt), api.ErrArg},
-		{"extreme state", with(1, 1, math.MaxInt, 0), api.ErrArg},
-		{"too many inputs", changed(func(m *api.Machine) { m.Inputs = 17 }), api.ErrLimit},
-		{"too many inputs that have edges", machine(17, 1, make([]api.Edge, 17)), api.ErrLimit},
-		{"most inputs", changed(func(m *api.Machine) { m.Inputs = math.MaxInt }), api.ErrLimit},
-		{"too many outputs", changed(func(m *api.Machine) { m.Outputs = 17 }), api.ErrLimit},
-		{"most outputs", changed(func(m *api.Machine) { m.Outputs = math.MaxInt }), api.ErrLimit},
-		{"too many rows", ring(65), api.ErrLimit},
-		{"far too many rows", machine(1, 1, make([][]api.Edge, 70000)...), api.ErrLimit},
-		{"too many inputs before no outputs", machine(17, 0), api.ErrLimit},
-		{"too many outputs before no inputs", machine(0, 17), api.ErrLimit},
-		{"too many rows before no inputs", machine(0, 0, make([][]api.Edge, 65)...), api.ErrLimit},
-		{"too many outputs before a row", machine(2, 17, []api.Edge{none}), api.ErrLimit},
-		{"too many inputs before an edge", machine(17, 2, []api.Edge{{To: 9, Out: 9}}), api.ErrLimit},
-	}
+	return samples.All(2, 2, 2)
 }
 
 // P4.1
@@ -163,21 +40,21 @@ func TestCheck(t *testing.T) {
 		m    api.Machine
 	}{
 		{"example", example()},
-		{"one state, one input, one output", machine(1, 1, []api.Edge{{}})},
-		{"nothing defined", machine(1, 1, []api.Edge{none})},
-		{"outputs that do not occur", machine(1, 16, []api.Edge{{}})},
-		{"states that are not reached", machine(1, 1, []api.Edge{{}}, []api.Edge{{To: 1}}, []api.Edge{none})},
-		{"rows in the same memory", machine(1, 1, slices.Repeat([][]api.Edge{{{To: 2}}}, 3)...)},
-		{"most states", ring(64)},
-		{"most of all", largest()},
+		{"one state, one input, one output", samples.Machine(1, 1, []api.Edge{{}})},
+		{"nothing defined", samples.Machine(1, 1, []api.Edge{none})},
+		{"outputs that do not occur", samples.Machine(1, 16, []api.Edge{{}})},
+		{"states that are not reached", samples.Machine(1, 1, []api.Edge{{}}, []api.Edge{{To: 1}}, []api.Edge{none})},
+		{"rows in the same memory", samples.Machine(1, 1, slices.Repeat([][]api.Edge{{{To: 2}}}, 3)...)},
+		{"most states", samples.Ring(64)},
+		{"most of all", samples.Largest()},
 	} {
 		if e := Check(x.m); e != api.OK {
 			t.Errorf("%s: error %d", x.name, e)
 		}
 	}
-	for _, x := range invalid() {
-		if e := Check(x.m); e != x.want {
-			t.Errorf("%s: error %d; want %d", x.name, e, x.want)
+	for _, x := range samples.Invalid() {
+		if e := Check(x.M); e != x.Want {
+			t.Errorf("%s: error %d; want %d", x.Name, e, x.Want)
 		}
 	}
 }
@@ -190,11 +67,11 @@ func TestCheckFollowsTheDefinition(t *testing.T) {
 			tried = append(tried, api.Edge{To: to, Out: out})
 		}
 	}
-	right := edgesOf(2, 2)
-	for _, m := range slices.Concat(machinesWith(2, 1, 2, tried), machinesWith(1, 2, 2, tried)) {
+	right := samples.Edges(2, 2)
+	for _, m := range slices.Concat(samples.Of(2, 1, 2, tried), samples.Of(1, 2, 2, tried)) {
 		allowed := right
 		if len(m.Rows) == 1 {
-			allowed = edgesOf(1, 2)
+			allowed = samples.Edges(1, 2)
 		}
 		want := api.OK
 		for _, row := range m.Rows {
@@ -221,15 +98,15 @@ func TestShape(t *testing.T) {
 	}{
 		{"example", example(), false, true, 3, [][2]int{{1, 0}}},
 		{"complete", changed(func(m *api.Machine) { m.Rows[1][0] = api.Edge{To: 1, Out: 1} }), true, true, 4, nil},
-		{"nothing defined in one state", machine(2, 1, []api.Edge{none, none}), false, true, 0, [][2]int{{0, 0}, {0, 1}}},
-		{"nothing defined in two states", machine(1, 1, []api.Edge{none}, []api.Edge{none}), false, false, 0, [][2]int{{0, 0}, {1, 0}}},
-		{"a state that only leads back", machine(1, 1, []api.Edge{{}}, []api.Edge{{}}), true, false, 2, nil},
-		{"a state that only itself leads to", machine(1, 1, []api.Edge{{}}, []api.Edge{{To: 1}}), true, false, 2, nil},
-		{"an undefined edge does not lead", machine(1, 1, []api.Edge{none}, []api.Edge{{}}), false, false, 1, [][2]int{{0, 0}}},
+		{"nothing defined in one state", samples.Machine(2, 1, []api.Edge{none, none}), false, true, 0, [][2]int{{0, 0}, {0, 1}}},
+		{"nothing defined in two states", samples.Machine(1, 1, []api.Edge{none}, []api.Edge{none}), false, false, 0, [][2]int{{0, 0}, {1, 0}}},
+		{"a state that only leads back", samples.Machine(1, 1, []api.Edge{{}}, []api.Edge{{}}), true, false, 2, nil},
+		{"a state that only itself leads to", samples.Machine(1, 1, []api.Edge{{}}, []api.Edge{{To: 1}}), true, false, 2, nil},
+		{"an undefined edge does not lead", samples.Machine(1, 1, []api.Edge{none}, []api.Edge{{}}), false, false, 1, [][2]int{{0, 0}}},
 		{"first edge undefined", changed(func(m *api.Machine) { m.Rows[0][0] = none }), false, false, 2, [][2]int{{0, 0}, {1, 0}}},
-		{"states and inputs ascend", machine(3, 1, []api.Edge{{To: 1}, none, none}, []api.Edge{none, {To: 0}, none}), false, true, 2, [][2]int{{0, 1}, {0, 2}, {1, 0}, {1, 2}}},
-		{"ring", ring(64), true, true, 64, nil},
-		{"largest", largest(), true, true, 1024, nil},
+		{"states and inputs ascend", samples.Machine(3, 1, []api.Edge{{To: 1}, none, none}, []api.Edge{none, {To: 0}, none}), false, true, 2, [][2]int{{0, 1}, {0, 2}, {1, 0}, {1, 2}}},
+		{"ring", samples.Ring(64), true, true, 64, nil},
+		{"largest", samples.Largest(), true, true, 1024, nil},
 	} {
 		complete, e := Complete(x.m)
 		connected, f := Connected(x.m)
@@ -250,11 +127,11 @@ func TestShape(t *testing.T) {
 // P4.2
 func TestConnectedInOtherOrders(t *testing.T) {
 	// From 0 to the last state, and from each one to the state before it.
-	backwards := machine(1, 1)
+	backwards := samples.Machine(1, 1)
 	for s := range 64 {
 		backwards.Rows = append(backwards.Rows, []api.Edge{{To: (s + 63) % 64}})
 	}
-	star := machine(16, 1, make([]api.Edge, 16))
+	star := samples.Machine(16, 1, make([]api.Edge, 16))
 	for i := range 16 {
 		star.Rows[0][i].To = i + 1
 		star.Rows = append(star.Rows, slices.Repeat([]api.Edge{none}, 16))
@@ -268,7 +145,7 @@ func TestConnectedInOtherOrders(t *testing.T) {
 			t.Errorf("%s without an edge: %v, error %d", name, connected, e)
 		}
 	}
-	broken := ring(64)
+	broken := samples.Ring(64)
 	for s := range 63 {
 		broken.Rows[s][0] = none
 		if connected, e := Connected(broken); connected || e != api.OK {
@@ -284,7 +161,7 @@ func TestConnectedInOtherOrders(t *testing.T) {
 
 // P4.2
 func TestShapeFollowsTheDefinition(t *testing.T) {
-	for _, m := range machinesWith(3, 2, 1, edgesOf(3, 1)) {
+	for _, m := range samples.All(3, 2, 1) {
 		var undefined [][2]int
 		for s, row := range m.Rows {
 			for i, x := range row {
@@ -344,14 +221,14 @@ func TestStep(t *testing.T) {
 		{"defined, another input", example(), 0, 1, api.Edge{To: 0, Out: 1}, api.OK},
 		{"undefined", example(), 1, 0, none, api.OK},
 		{"last", example(), 1, 1, api.Edge{To: 0, Out: 0}, api.OK},
-		{"last of the largest", largest(), 63, 15, api.Edge{To: 15, Out: 15}, api.OK},
+		{"last of the largest", samples.Largest(), 63, 15, api.Edge{To: 15, Out: 15}, api.OK},
 		{"state too great", example(), 2, 0, api.Edge{}, api.ErrArg},
 		{"state negative", example(), -1, 0, api.Edge{}, api.ErrArg},
 		{"input too great", example(), 0, 2, api.Edge{}, api.ErrArg},
 		{"input negative", example(), 0, -1, api.Edge{}, api.ErrArg},
 		{"extreme state", example(), math.MinInt, 0, api.Edge{}, api.ErrArg},
 		{"extreme input", example(), 0, math.MaxInt, api.Edge{}, api.ErrArg},
-		{"input of another row", ring(3), 0, 1, api.Edge{}, api.ErrArg},
+		{"input of another row", samples.Ring(3), 0, 1, api.Edge{}, api.ErrArg},
 	} {
 		if got, e := Step(x.m, x.s, x.i); got != x.want || e != x.e {
 			t.Errorf("%s: %v, error %d; want %v, error %d", x.name, got, e, x.want, x.e)
@@ -398,10 +275,10 @@ func TestRunAndAfter(t *testing.T) {
 		{"another state", example(), 1, []int{1, 1, 0}, []int{0, 1, 0}, 1},
 		{"nil", example(), 1, nil, nil, 1},
 		{"empty", example(), 0, []int{}, nil, 0},
-		{"empty where nothing is defined", machine(1, 1, []api.Edge{none}), 0, nil, nil, 0},
-		{"the whole ring", ring(3), 1, []int{0, 0, 0, 0}, []int{1, 2, 0, 1}, 2},
-		{"longest", ring(64), 63, make([]int, 256), slices.Repeat(outsFrom(15, 16), 16), 63},
-		{"longest that gets stuck", machine(1, 1, []api.Edge{none}), 0, make([]int, 256), slices.Repeat([]int{-1}, 256), api.None},
+		{"empty where nothing is defined", samples.Machine(1, 1, []api.Edge{none}), 0, nil, nil, 0},
+		{"the whole ring", samples.Ring(3), 1, []int{0, 0, 0, 0}, []int{1, 2, 0, 1}, 2},
+		{"longest", samples.Ring(64), 63, make([]int, 256), slices.Repeat(outsFrom(15, 16), 16), 63},
+		{"longest that gets stuck", samples.Machine(1, 1, []api.Edge{none}), 0, make([]int, 256), slices.Repeat([]int{-1}, 256), api.None},
 	} {
 		response, e := Run(x.m, x.s, x.w)
 		if e != api.OK || !slices.Equal(response, x.response) {
@@ -472,7 +349,7 @@ func TestWith(t *testing.T) {
 	} {
 		m := example()
 		got, e := With(m, x.s, x.i, x.x)
-		if e != api.OK || !equal(got, machine(2, 2, x.want[:2], x.want[2:])) {
+		if e != api.OK || !equal(got, samples.Machine(2, 2, x.want[:2], x.want[2:])) {
 			t.Errorf("%s: %v, error %d", x.name, got, e)
 		}
 		if !equal(m, example()) {
@@ -482,7 +359,7 @@ func TestWith(t *testing.T) {
 			t.Errorf("%s: complete is %v", x.name, complete)
 		}
 	}
-	got, e := With(largest(), 63, 15, none)
+	got, e := With(samples.Largest(), 63, 15, none)
 	undefined, _ := Undefined(got)
 	if e != api.OK || !slices.Equal(undefined, [][2]int{{63, 15}}) {
 		t.Errorf("largest: error %d, undefined %v", e, undefined)
@@ -532,17 +409,17 @@ func TestSame(t *testing.T) {
 		changed(func(m *api.Machine) { m.Rows[1][1].Out = 1 }),
 		changed(func(m *api.Machine) { m.Rows = append(m.Rows, []api.Edge{none, none}) }),
 		changed(func(m *api.Machine) { m.Rows[0], m.Rows[1] = m.Rows[1], m.Rows[0] }),
-		machine(1, 2, []api.Edge{{}}),
-		machine(2, 2, []api.Edge{{}, {}}),
-		machine(1, 2, []api.Edge{{}}, []api.Edge{{}}),
-		machine(2, 2, []api.Edge{{}, {}}, []api.Edge{{}, {}}),
-		ring(63),
-		ring(64),
-		largest(),
+		samples.Machine(1, 2, []api.Edge{{}}),
+		samples.Machine(2, 2, []api.Edge{{}, {}}),
+		samples.Machine(1, 2, []api.Edge{{}}, []api.Edge{{}}),
+		samples.Machine(2, 2, []api.Edge{{}, {}}, []api.Edge{{}, {}}),
+		samples.Ring(63),
+		samples.Ring(64),
+		samples.Largest(),
 	}
 	for i, a := range valid {
 		for k, b := range valid {
-			if Same(a, clone(b)) != (i == k) {
+			if Same(a, samples.Clone(b)) != (i == k) {
 				t.Errorf("Same(%v, %v) = %v", a, b, i != k)
 			}
 		}
@@ -550,9 +427,9 @@ func TestSame(t *testing.T) {
 			t.Errorf("not the same as itself: %v", a)
 		}
 	}
-	for _, x := range invalid() {
-		if Same(x.m, x.m) || Same(x.m, clone(x.m)) || Same(x.m, example()) || Same(example(), x.m) {
-			t.Errorf("%s: Same is true", x.name)
+	for _, x := range samples.Invalid() {
+		if Same(x.M, x.M) || Same(x.M, samples.Clone(x.M)) || Same(x.M, example()) || Same(example(), x.M) {
+			t.Errorf("%s: Same is true", x.Name)
 		}
 	}
 }
@@ -560,32 +437,32 @@ func TestSame(t *testing.T) {
 // The error of the machine comes before those of a state, an input, a word or an edge.
 // P4.2, P4.3, P4.4, P4.5
 func TestTheMachineIsCheckedFirst(t *testing.T) {
-	for _, x := range invalid() {
-		if complete, e := Complete(x.m); complete || e != x.want {
-			t.Errorf("Complete, %s: %v, error %d; want error %d", x.name, complete, e, x.want)
+	for _, x := range samples.Invalid() {
+		if complete, e := Complete(x.M); complete || e != x.Want {
+			t.Errorf("Complete, %s: %v, error %d; want error %d", x.Name, complete, e, x.Want)
 		}
-		if connected, e := Connected(x.m); connected || e != x.want {
-			t.Errorf("Connected, %s: %v, error %d; want error %d", x.name, connected, e, x.want)
+		if connected, e := Connected(x.M); connected || e != x.Want {
+			t.Errorf("Connected, %s: %v, error %d; want error %d", x.Name, connected, e, x.Want)
 		}
-		if count, e := Transitions(x.m); count != 0 || e != x.want {
-			t.Errorf("Transitions, %s: %d, error %d; want error %d", x.name, count, e, x.want)
+		if count, e := Transitions(x.M); count != 0 || e != x.Want {
+			t.Errorf("Transitions, %s: %d, error %d; want error %d", x.Name, count, e, x.Want)
 		}
-		if places, e := Undefined(x.m); len(places) != 0 || e != x.want {
-			t.Errorf("Undefined, %s: %v, error %d; want error %d", x.name, places, e, x.want)
+		if places, e := Undefined(x.M); len(places) != 0 || e != x.Want {
+			t.Errorf("Undefined, %s: %v, error %d; want error %d", x.Name, places, e, x.Want)
 		}
 		for _, s := range []int{0, -1, 64, math.MinInt, math.MaxInt} {
-			if edge, e := Step(x.m, s, s); edge != (api.Edge{}) || e != x.want {
-				t.Errorf("Step, %s: %v, error %d; want error %d", x.name, edge, e, x.want)
+			if edge, e := Step(x.M, s, s); edge != (api.Edge{}) || e != x.Want {
+				t.Errorf("Step, %s: %v, error %d; want error %d", x.Name, edge, e, x.Want)
 			}
-			if m, e := With(x.m, s, s, api.Edge{To: 99, Out: s}); !equal(m, api.Machine{}) || e != x.want {
-				t.Errorf("With, %s: %v, error %d; want error %d", x.name, m, e, x.want)
+			if m, e := With(x.M, s, s, api.Edge{To: 99, Out: s}); !equal(m, api.Machine{}) || e != x.Want {
+				t.Errorf("With, %s: %v, error %d; want error %d", x.Name, m, e, x.Want)
 			}
 			for _, w := range [][]int{nil, {0}, {-1}, make([]int, 257)} {
-				if response, e := Run(x.m, s, w); len(response) != 0 || e != x.want {
-					t.Errorf("Run, %s: %v, error %d; want error %d", x.name, response, e, x.want)
+				if response, e := Run(x.M, s, w); len(response) != 0 || e != x.Want {
+					t.Errorf("Run, %s: %v, error %d; want error %d", x.Name, response, e, x.Want)
 				}
-				if after, e := After(x.m, s, w); after != 0 || e != x.want {
-					t.Errorf("After, %s: %d, error %d; want error %d", x.name, after, e, x.want)
+				if after, e := After(x.M, s, w); after != 0 || e != x.Want {
+					t.Errorf("After, %s: %d, error %d; want error %d", x.Name, after, e, x.Want)
 				}
 			}
 		}
@@ -642,7 +519,7 @@ func TestCompleteMachinesHaveNoNone(t *testing.T) {
 			t.Errorf("%v: complete is %v, None in a response is %v", m, complete, stuck)
 		}
 	}
-	long, _ := ask(t, largest(), 5, slices.Repeat([]int{15, 0}, 128))
+	long, _ := ask(t, samples.Largest(), 5, slices.Repeat([]int{15, 0}, 128))
 	if !slices.Equal(long, slices.Repeat([]int{15, 0}, 128)) {
 		t.Errorf("largest: %v", long)
 	}
@@ -651,9 +528,9 @@ func TestCompleteMachinesHaveNoNone(t *testing.T) {
 // Rules R1 and R4: arguments stay as they are, and results share memory neither with them nor with each other.
 func TestArgumentsAreNeitherChangedNorShared(t *testing.T) {
 	row := append(make([]api.Edge, 0, 8), api.Edge{To: 1}, none)
-	m := machine(2, 2, append(make([][]api.Edge, 0, 8), row, row)...)
+	m := samples.Machine(2, 2, append(make([][]api.Edge, 0, 8), row, row)...)
 	w := append(make([]int, 0, 8), 0, 0, 1)
-	before, word := clone(m), slices.Clone(w)
+	before, word := samples.Clone(m), slices.Clone(w)
 	with, _ := With(m, 1, 1, api.Edge{Out: 1})
 	again, _ := With(m, 1, 1, api.Edge{Out: 1})
 	run, _ := Run(m, 0, w)
@@ -680,7 +557,7 @@ func TestArgumentsAreNeitherChangedNorShared(t *testing.T) {
 	if !equal(m, before) || !slices.Equal(w, word) || row[:3][2] != (api.Edge{}) || w[:4][3] != 0 {
 		t.Errorf("changed: %v, %v", m, w)
 	}
-	if !equal(again, machine(2, 2, []api.Edge{{To: 1}, none}, []api.Edge{{To: 1}, {Out: 1}})) || !slices.Equal(twice, []int{0, 0, -1}) {
+	if !equal(again, samples.Machine(2, 2, []api.Edge{{To: 1}, none}, []api.Edge{{To: 1}, {Out: 1}})) || !slices.Equal(twice, []int{0, 0, -1}) {
 		t.Errorf("results share their memory: %v, %v", again, twice)
 	}
 }

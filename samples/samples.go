@@ -1,0 +1,149 @@
+// Package samples contains machines for the tests of several layers. The program itself does not use it.
+package samples
+
+import (
+	"math"
+	"slices"
+
+	"gauntlet/api"
+)
+
+// none is the undefined edge.
+var none = api.Edge{To: api.None, Out: api.None}
+
+// Refused is a machine that is not valid, with its error.
+type Refused struct {
+	Name string
+	M    api.Machine
+	Want api.Errno
+}
+
+// Machine returns a machine with these rows.
+func Machine(inputs, outputs int, rows ...[]api.Edge) api.Machine {
+	return api.Machine{Inputs: inputs, Outputs: outputs, Rows: rows}
+}
+
+// Ring returns a machine with one input and 16 outputs that goes from each state to the next one, and from the last one to the first one.
+func Ring(states int) api.Machine {
+	m := Machine(1, 16)
+	for s := range states {
+		m.Rows = append(m.Rows, []api.Edge{{To: (s + 1) % states, Out: s % 16}})
+	}
+	return m
+}
+
+// Largest returns a machine with as many states, inputs and outputs as there may be: the input i leads from s to s + i + 1, with the output i.
+func Largest() api.Machine {
+	m := Machine(16, 16)
+	for s := range 64 {
+		row := make([]api.Edge, 16)
+		for i := range row {
+			row[i] = api.Edge{To: (s + i + 1) % 64, Out: i}
+		}
+		m.Rows = append(m.Rows, row)
+	}
+	return m
+}
+
+// Clone returns the same machine in other memory.
+func Clone(m api.Machine) api.Machine {
+	rows := slices.Clone(m.Rows)
+	for s, row := range rows {
+		rows[s] = slices.Clone(row)
+	}
+	return Machine(m.Inputs, m.Outputs, rows...)
+}
+
+// Changed returns a machine after a change, which may write into the rows of the given one.
+func Changed(m api.Machine, change func(m *api.Machine)) api.Machine {
+	change(&m)
+	return m
+}
+
+// Edges returns the undefined edge, and all others to so many states with so many outputs.
+func Edges(states, outputs int) []api.Edge {
+	all := []api.Edge{none}
+	for to := range states {
+		for out := range outputs {
+			all = append(all, api.Edge{To: to, Out: out})
+		}
+	}
+	return all
+}
+
+// Of returns all machines with so many states and inputs whose edges are of a list, valid or not.
+func Of(states, inputs, outputs int, edges []api.Edge) []api.Machine {
+	all := []api.Machine{Machine(inputs, outputs, make([][]api.Edge, states)...)}
+	for n := range states * inputs {
+		var more []api.Machine
+		for _, m := range all {
+			for _, x := range edges {
+				next := Clone(m)
+				next.Rows[n/inputs] = append(next.Rows[n/inputs], x)
+				more = append(more, next)
+			}
+		}
+		all = more
+	}
+	return all
+}
+
+// All returns all valid machines with these numbers.
+func All(states, inputs, outputs int) []api.Machine {
+	return Of(states, inputs, outputs, Edges(states, outputs))
+}
+
+// Invalid returns machines that are not valid.
+func Invalid() []Refused {
+	changed := func(change func(m *api.Machine)) api.Machine {
+		return Changed(Machine(2, 2, []api.Edge{{To: 1, Out: 0}, {To: 0, Out: 1}}, []api.Edge{none, {To: 0, Out: 0}}), change)
+	}
+	with := func(s, i, to, out int) api.Machine {
+		return changed(func(m *api.Machine) { m.Rows[s][i] = api.Edge{To: to, Out: out} })
+	}
+	return []Refused{
+		{"zero", api.Machine{}, api.ErrArg},
+		{"no rows", Machine(2, 2), api.ErrArg},
+		{"empty rows", Machine(2, 2, make([][]api.Edge, 2)...), api.ErrArg},
+		{"no inputs", Machine(0, 2, []api.Edge{}), api.ErrArg},
+		{"no inputs, but edges", changed(func(m *api.Machine) { m.Inputs = 0 }), api.ErrArg},
+		{"negative inputs", changed(func(m *api.Machine) { m.Inputs = -1 }), api.ErrArg},
+		{"least inputs", changed(func(m *api.Machine) { m.Inputs = math.MinInt }), api.ErrArg},
+		{"fewer inputs than edges", changed(func(m *api.Machine) { m.Inputs = 1 }), api.ErrArg},
+		{"more inputs than edges", changed(func(m *api.Machine) { m.Inputs = 3 }), api.ErrArg},
+		{"no outputs", changed(func(m *api.Machine) { m.Outputs = 0 }), api.ErrArg},
+		{"no outputs and no edges that are defined", Machine(1, 0, []api.Edge{none}), api.ErrArg},
+		{"negative outputs", Machine(1, -1, []api.Edge{none}), api.ErrArg},
+		{"least outputs", changed(func(m *api.Machine) { m.Outputs = math.MinInt }), api.ErrArg},
+		{"too few outputs", changed(func(m *api.Machine) { m.Outputs = 1 }), api.ErrArg},
+		{"first row too short", changed(func(m *api.Machine) { m.Rows[0] = m.Rows[0][:1] }), api.ErrArg},
+		{"last row too short", changed(func(m *api.Machine) { m.Rows[1] = m.Rows[1][:1] }), api.ErrArg},
+		{"last row nil", changed(func(m *api.Machine) { m.Rows[1] = nil }), api.ErrArg},
+		{"last row too long", changed(func(m *api.Machine) { m.Rows[1] = append(m.Rows[1], none) }), api.ErrArg},
+		{"rows too short and too long", Machine(2, 2, []api.Edge{none}, []api.Edge{none, none, none}), api.ErrArg},
+		{"state too great", with(0, 0, 2, 0), api.ErrArg},
+		{"state too great in the last edge", with(1, 1, 2, 0), api.ErrArg},
+		{"state negative", with(0, 0, -2, 0), api.ErrArg},
+		{"output too great", with(0, 0, 1, 2), api.ErrArg},
+		{"output negative", with(0, 1, 1, -2), api.ErrArg},
+		{"a state, but no output", with(0, 0, 1, -1), api.ErrArg},
+		{"an output, but no state", with(1, 1, -1, 0), api.ErrArg},
+		{"neither, but not None", with(1, 0, -2, -2), api.ErrArg},
+		{"no state, output too small", with(1, 0, -1, -2), api.ErrArg},
+		{"extreme", with(1, 1, math.MinInt, math.MaxInt), api.ErrArg},
+		{"extreme state", with(1, 1, math.MaxInt, 0), api.ErrArg},
+		{"state too great where nothing leads", Machine(1, 1, []api.Edge{{}}, []api.Edge{{To: 2}}), api.ErrArg},
+		{"too many inputs", changed(func(m *api.Machine) { m.Inputs = 17 }), api.ErrLimit},
+		{"too many inputs that have edges", Machine(17, 1, make([]api.Edge, 17)), api.ErrLimit},
+		{"most inputs", changed(func(m *api.Machine) { m.Inputs = math.MaxInt }), api.ErrLimit},
+		{"too many outputs", changed(func(m *api.Machine) { m.Outputs = 17 }), api.ErrLimit},
+		{"most outputs", changed(func(m *api.Machine) { m.Outputs = math.MaxInt }), api.ErrLimit},
+		{"too many rows", Ring(65), api.ErrLimit},
+		{"far too many rows", Machine(1, 1, make([][]api.Edge, 70000)...), api.ErrLimit},
+		{"too many inputs before no outputs", Machine(17, 0), api.ErrLimit},
+		{"too many outputs before no inputs", Machine(0, 17), api.ErrLimit},
+		{"too many rows before no inputs", Machine(0, 0, make([][]api.Edge, 65)...), api.ErrLimit},
+		{"too many outputs before a row", Machine(2, 17, []api.Edge{none}), api.ErrLimit},
+		{"too many inputs before an edge", Machine(17, 2, []api.Edge{{To: 9, Out: 9}}), api.ErrLimit},
+	}
+}
