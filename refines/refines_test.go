@@ -24,31 +24,9 @@ func example() api.Machine {
 		[]api.Edge{{To: 3, Out: 0}, {To: 1, Out: 1}})
 }
 
-// chain returns a machine with one input that goes from each state to the next one, and from the last one nowhere: so each round sets only one state apart.
-func chain(states int) api.Machine {
-	m := samples.Machine(1, 1)
-	for s := range states - 1 {
-		m.Rows = append(m.Rows, []api.Edge{{To: s + 1}})
-	}
-	m.Rows = append(m.Rows, []api.Edge{none})
-	return m
-}
-
-// largestBut returns the largest machine, in which all states are equivalent, with another edge in the state 63 for the input 15.
-func largestBut(x api.Edge) api.Machine {
-	m := samples.Largest()
-	m.Rows[63][15] = x
-	return m
-}
-
-// small returns all machines with few states, inputs and outputs.
-func small() []api.Machine {
-	return slices.Concat(samples.All(1, 2, 2), samples.All(2, 2, 2), samples.All(3, 1, 2), samples.All(3, 2, 1), samples.All(4, 1, 1))
-}
-
 // large returns machines with many states.
 func large() []api.Machine {
-	return []api.Machine{chain(64), chain(63), samples.Ring(64), samples.Ring(63), samples.Largest(), largestBut(none), largestBut(api.Edge{To: 15, Out: 14})}
+	return []api.Machine{samples.Chain(64), samples.Chain(63), samples.Ring(64), samples.Ring(63), samples.Largest(), samples.LargestBut(none), samples.LargestBut(api.Edge{To: 15, Out: 14})}
 }
 
 // upTo returns the numbers from 0 to n - 1: the partition in which each is alone.
@@ -159,16 +137,16 @@ func TestRounds(t *testing.T) {
 		{"blocks in the order of their least states", samples.Machine(1, 3, []api.Edge{{Out: 2}}, []api.Edge{{Out: 0}}, []api.Edge{{Out: 2}}, []api.Edge{{Out: 1}}), 1, []int{0, 1, 0, 2}},
 		{"an output of the last input", samples.Machine(3, 2, []api.Edge{{}, {}, {Out: 1}}, []api.Edge{{}, {}, {}}), 1, []int{0, 1}},
 		{"an output of the first input", samples.Machine(3, 2, []api.Edge{{}, {}, {}}, []api.Edge{{Out: 1}, {}, {}}), 1, []int{0, 1}},
-		{"chain", chain(64), 0, make([]int, 64)},
-		{"chain", chain(64), 1, setApart(64, 1)},
-		{"chain", chain(64), 30, setApart(64, 30)},
-		{"chain", chain(64), 62, append([]int{0}, upTo(63)...)},
-		{"chain", chain(64), 63, upTo(64)},
-		{"chain", chain(64), 64, upTo(64)},
-		{"chain", chain(64), math.MaxInt, upTo(64)},
+		{"chain", samples.Chain(64), 0, make([]int, 64)},
+		{"chain", samples.Chain(64), 1, setApart(64, 1)},
+		{"chain", samples.Chain(64), 30, setApart(64, 30)},
+		{"chain", samples.Chain(64), 62, append([]int{0}, upTo(63)...)},
+		{"chain", samples.Chain(64), 63, upTo(64)},
+		{"chain", samples.Chain(64), 64, upTo(64)},
+		{"chain", samples.Chain(64), math.MaxInt, upTo(64)},
 		{"largest", samples.Largest(), 99, make([]int, 64)},
-		{"largest, an edge less", largestBut(none), 1, setApart(64, 1)},
-		{"largest, another output", largestBut(api.Edge{To: 15, Out: 14}), 1, setApart(64, 1)},
+		{"largest, an edge less", samples.LargestBut(none), 1, setApart(64, 1)},
+		{"largest, another output", samples.LargestBut(api.Edge{To: 15, Out: 14}), 1, setApart(64, 1)},
 	} {
 		got, e := Rounds(x.m, x.k)
 		if !slices.Equal(got, x.want) || e != api.OK || cap(got) != len(got) {
@@ -190,7 +168,7 @@ func TestRoundsRefusesNegativeNumbers(t *testing.T) {
 
 // P7.1
 func TestRoundsFollowsTheDefinition(t *testing.T) {
-	for _, m := range append(small(), example()) {
+	for _, m := range append(samples.Small(), example()) {
 		for k := range 5 {
 			got, e := Rounds(m, k)
 			if want := classesOf(t, m, k); !slices.Equal(got, want) || e != api.OK {
@@ -215,12 +193,12 @@ func TestClasses(t *testing.T) {
 		{"nothing defined", samples.Machine(1, 1, []api.Edge{none}, []api.Edge{none}), []int{0, 0}, 0},
 		{"the toggle", samples.Machine(1, 2, []api.Edge{{To: 1, Out: 0}}, []api.Edge{{To: 0, Out: 1}}), []int{0, 1}, 1},
 		{"two states that lead to one without edges", samples.Machine(1, 1, []api.Edge{{To: 1}}, []api.Edge{none}, []api.Edge{{To: 2}}, []api.Edge{none}, []api.Edge{{To: 3}}), []int{0, 1, 2, 1, 0}, 2},
-		{"chain of two", chain(2), []int{0, 1}, 1},
-		{"chain", chain(64), upTo(64), 63},
+		{"chain of two", samples.Chain(2), []int{0, 1}, 1},
+		{"chain", samples.Chain(64), upTo(64), 63},
 		{"ring", samples.Ring(64), everyOther(64, 16), 1},
 		{"ring of 63: no two states are alike", samples.Ring(63), upTo(63), 48},
 		{"largest", samples.Largest(), make([]int, 64), 0},
-		{"largest, an edge less: the first states need four symbols to come to it", largestBut(none), upTo(64), 5},
+		{"largest, an edge less: the first states need four symbols to come to it", samples.LargestBut(none), upTo(64), 5},
 	} {
 		got, rounds, e := Classes(x.m)
 		if !slices.Equal(got, x.want) || rounds != x.rounds || e != api.OK || cap(got) != len(got) {
@@ -231,7 +209,7 @@ func TestClasses(t *testing.T) {
 
 // P7.2, P7.3
 func TestClassesFollowTheDefinition(t *testing.T) {
-	for _, m := range append(small(), example()) {
+	for _, m := range append(samples.Small(), example()) {
 		// With at most four states, words of three symbols tell apart all that can be told apart; these are of five.
 		want := classesOf(t, m, 5)
 		least := 0
@@ -266,12 +244,12 @@ func TestEquivalent(t *testing.T) {
 		{"example, not alike", example(), 1, 2, false},
 		{"itself", example(), 3, 3, true},
 		{"one state", samples.Machine(1, 1, []api.Edge{none}), 0, 0, true},
-		{"the first state and the last one", chain(64), 0, 63, false},
-		{"as late as possible", chain(64), 0, 1, false},
+		{"the first state and the last one", samples.Chain(64), 0, 63, false},
+		{"as late as possible", samples.Chain(64), 0, 1, false},
 		{"ring", samples.Ring(64), 3, 51, true},
 		{"ring, not alike", samples.Ring(64), 3, 52, false},
 		{"largest", samples.Largest(), 0, 63, true},
-		{"largest, an edge less", largestBut(none), 1, 2, false},
+		{"largest, an edge less", samples.LargestBut(none), 1, 2, false},
 	} {
 		if got, e := Equivalent(x.m, x.s, x.t); got != x.want || e != api.OK {
 			t.Errorf("%s: %v, error %d; want %v", x.name, got, e, x.want)
@@ -318,15 +296,15 @@ func TestRespects(t *testing.T) {
 		{"finer than equivalence", samples.Ring(64), everyOther(64, 32), true},
 		{"equivalence", samples.Ring(64), everyOther(64, 16), true},
 		{"coarser than equivalence", samples.Ring(64), everyOther(64, 8), false},
-		{"chain", chain(64), append([]int{0}, upTo(63)...), false},
-		{"chain, each alone", chain(64), upTo(64), true},
+		{"chain", samples.Chain(64), append([]int{0}, upTo(63)...), false},
+		{"chain, each alone", samples.Chain(64), upTo(64), true},
 		{"largest", samples.Largest(), make([]int, 64), true},
 		{"largest, remainders", samples.Largest(), everyOther(64, 4), true},
 		{"largest, one alone", samples.Largest(), setApart(64, 1), false},
-		{"largest, an edge less", largestBut(none), make([]int, 64), false},
-		{"largest, another output", largestBut(api.Edge{To: 15, Out: 14}), make([]int, 64), false},
-		{"largest, another state in the same block", largestBut(api.Edge{To: 11, Out: 15}), everyOther(64, 4), true},
-		{"largest, another state in another block", largestBut(api.Edge{To: 12, Out: 15}), everyOther(64, 4), false},
+		{"largest, an edge less", samples.LargestBut(none), make([]int, 64), false},
+		{"largest, another output", samples.LargestBut(api.Edge{To: 15, Out: 14}), make([]int, 64), false},
+		{"largest, another state in the same block", samples.LargestBut(api.Edge{To: 11, Out: 15}), everyOther(64, 4), true},
+		{"largest, another state in another block", samples.LargestBut(api.Edge{To: 12, Out: 15}), everyOther(64, 4), false},
 	} {
 		if got, e := Respects(x.m, x.p); got != x.want || e != api.OK {
 			t.Errorf("%s: %v, error %d; want %v", x.name, got, e, x.want)
@@ -364,7 +342,7 @@ func TestRespectsRefuses(t *testing.T) {
 
 // P7.4
 func TestRespectsFollowsTheDefinition(t *testing.T) {
-	for _, m := range append(small(), example()) {
+	for _, m := range append(samples.Small(), example()) {
 		for _, p := range allPartitions(len(m.Rows)) {
 			if got, e := Respects(m, p); got != respectsOf(m, p) || e != api.OK {
 				t.Errorf("Respects(%v, %v) = %v, error %d", m, p, got, e)
@@ -411,7 +389,7 @@ func rounds(t *testing.T, m api.Machine) [][]int {
 
 // P7.5
 func TestEachRoundIsFiner(t *testing.T) {
-	for _, m := range append(append(small(), large()...), example()) {
+	for _, m := range append(append(samples.Small(), large()...), example()) {
 		all := rounds(t, m)
 		p, last, e := Classes(m)
 		if e != api.OK || last > len(m.Rows)-1 {
@@ -433,13 +411,13 @@ func TestEachRoundIsFiner(t *testing.T) {
 
 // P7.5
 func TestEquivalenceIsTheCoarsestThatIsRespected(t *testing.T) {
-	for _, m := range append(append(small(), large()...), example()) {
+	for _, m := range append(append(samples.Small(), large()...), example()) {
 		p, _, e := Classes(m)
 		if is, f := Respects(m, p); !is || e != api.OK || f != api.OK {
 			t.Errorf("%v: %v is not respected; errors %d, %d", m, p, e, f)
 		}
 	}
-	for _, m := range append(small(), example()) {
+	for _, m := range append(samples.Small(), example()) {
 		p, _, _ := Classes(m)
 		for _, q := range allPartitions(len(m.Rows)) {
 			is, _ := Respects(m, q)
@@ -458,7 +436,7 @@ func TestEquivalenceIsTheCoarsestThatIsRespected(t *testing.T) {
 
 // P7.5
 func TestJoinsOfRespectedPartitionsAreRespected(t *testing.T) {
-	for _, m := range append(small(), example()) {
+	for _, m := range append(samples.Small(), example()) {
 		respected := slices.DeleteFunc(allPartitions(len(m.Rows)), func(p []int) bool {
 			is, _ := Respects(m, p)
 			return !is

@@ -32,6 +32,16 @@ func Ring(states int) api.Machine {
 	return m
 }
 
+// Chain returns a machine with one input that goes from each state to the next one, and from the last one nowhere: a word must take the greater of two states there to tell it from the lesser one.
+func Chain(states int) api.Machine {
+	m := Machine(1, 1)
+	for s := range states - 1 {
+		m.Rows = append(m.Rows, []api.Edge{{To: s + 1}})
+	}
+	m.Rows = append(m.Rows, []api.Edge{none})
+	return m
+}
+
 // Largest returns a machine with as many states, inputs and outputs as there may be: the input i leads from s to s + i + 1, with the output i.
 func Largest() api.Machine {
 	m := Machine(16, 16)
@@ -42,6 +52,13 @@ func Largest() api.Machine {
 		}
 		m.Rows = append(m.Rows, row)
 	}
+	return m
+}
+
+// LargestBut returns the largest machine, in which all states are equivalent, with another edge in the state 63 for the input 15.
+func LargestBut(x api.Edge) api.Machine {
+	m := Largest()
+	m.Rows[63][15] = x
 	return m
 }
 
@@ -91,6 +108,11 @@ func Of(states, inputs, outputs int, edges []api.Edge) []api.Machine {
 // All returns all valid machines with these numbers.
 func All(states, inputs, outputs int) []api.Machine {
 	return Of(states, inputs, outputs, Edges(states, outputs))
+}
+
+// Small returns all machines with some small numbers of states, inputs and outputs.
+func Small() []api.Machine {
+	return slices.Concat(All(1, 2, 2), All(2, 2, 2), All(3, 1, 2), All(3, 2, 1), All(4, 1, 1))
 }
 
 // Invalid returns machines that are not valid.
