@@ -24,11 +24,6 @@ func example() api.Machine {
 		[]api.Edge{{To: 3, Out: 0}, {To: 1, Out: 1}})
 }
 
-// large returns machines with many states.
-func large() []api.Machine {
-	return []api.Machine{samples.Chain(64), samples.Chain(63), samples.Ring(64), samples.Ring(63), samples.Largest(), samples.LargestBut(none), samples.LargestBut(api.Edge{To: 15, Out: 14})}
-}
-
 // upTo returns the numbers from 0 to n - 1: the partition in which each is alone.
 func upTo(n int) []int {
 	l := make([]int, n)
@@ -389,7 +384,7 @@ func rounds(t *testing.T, m api.Machine) [][]int {
 
 // P7.5
 func TestEachRoundIsFiner(t *testing.T) {
-	for _, m := range append(append(samples.Small(), large()...), example()) {
+	for _, m := range append(append(samples.Small(), samples.Large()...), example()) {
 		all := rounds(t, m)
 		p, last, e := Classes(m)
 		if e != api.OK || last > len(m.Rows)-1 {
@@ -411,7 +406,7 @@ func TestEachRoundIsFiner(t *testing.T) {
 
 // P7.5
 func TestEquivalenceIsTheCoarsestThatIsRespected(t *testing.T) {
-	for _, m := range append(append(samples.Small(), large()...), example()) {
+	for _, m := range append(append(samples.Small(), samples.Large()...), example()) {
 		p, _, e := Classes(m)
 		if is, f := Respects(m, p); !is || e != api.OK || f != api.OK {
 			t.Errorf("%v: %v is not respected; errors %d, %d", m, p, e, f)

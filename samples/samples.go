@@ -62,6 +62,35 @@ func LargestBut(x api.Edge) api.Machine {
 	return m
 }
 
+// Large returns machines with as many states as there may be, or one less.
+func Large() []api.Machine {
+	return []api.Machine{Chain(64), Chain(63), Ring(64), Ring(63), Largest(), LargestBut(none), LargestBut(api.Edge{To: 15, Out: 14})}
+}
+
+// Scattered returns a machine whose edges follow no pattern; another seed makes another one. Most edges have the output 0, few of them are undefined: so states are hard to tell apart.
+func Scattered(states, inputs, seed int) api.Machine {
+	next := func(below int) int {
+		seed = (seed*1103515245 + 12345) % (1 << 31)
+		return seed >> 8 % below
+	}
+	m := Machine(inputs, 2)
+	for range states {
+		row := make([]api.Edge, inputs)
+		for i := range row {
+			switch chance := next(4 * states); {
+			case chance < 1:
+				row[i] = none
+			case chance < 3:
+				row[i] = api.Edge{To: next(states), Out: 1}
+			default:
+				row[i] = api.Edge{To: next(states), Out: 0}
+			}
+		}
+		m.Rows = append(m.Rows, row)
+	}
+	return m
+}
+
 // Clone returns the same machine in other memory.
 func Clone(m api.Machine) api.Machine {
 	rows := slices.Clone(m.Rows)

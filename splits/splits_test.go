@@ -34,39 +34,15 @@ func forks() api.Machine {
 		[]api.Edge{{To: 0, Out: 0}, {To: 4, Out: 0}, {To: 4, Out: 0}})
 }
 
-// scattered returns a machine whose edges follow no pattern; another seed makes another one. Most edges have the output 0, few of them are undefined: so states are hard to tell apart.
-func scattered(states, inputs, seed int) api.Machine {
-	next := func(below int) int {
-		seed = (seed*1103515245 + 12345) % (1 << 31)
-		return seed >> 8 % below
-	}
-	m := samples.Machine(inputs, 2)
-	for range states {
-		row := make([]api.Edge, inputs)
-		for i := range row {
-			switch chance := next(4 * states); {
-			case chance < 1:
-				row[i] = none
-			case chance < 3:
-				row[i] = api.Edge{To: next(states), Out: 1}
-			default:
-				row[i] = api.Edge{To: next(states), Out: 0}
-			}
-		}
-		m.Rows = append(m.Rows, row)
-	}
-	return m
-}
-
 // large returns machines with more states than can be tried with all words.
 func large() []api.Machine {
-	l := []api.Machine{forks(), samples.Chain(64), samples.Chain(63), samples.Ring(64), samples.Ring(63), samples.Largest(), samples.LargestBut(none), samples.LargestBut(api.Edge{To: 15, Out: 14})}
+	l := append(samples.Large(), forks())
 	for seed := range 20 {
 		for _, inputs := range []int{1, 2, 3} {
-			l = append(l, scattered(5+seed, inputs, seed))
+			l = append(l, samples.Scattered(5+seed, inputs, seed))
 		}
 	}
-	return append(l, scattered(64, 1, 1), scattered(64, 2, 2), scattered(64, 16, 3))
+	return append(l, samples.Scattered(64, 1, 1), samples.Scattered(64, 2, 2), samples.Scattered(64, 16, 3))
 }
 
 // zeros returns a word with so many symbols, all of them 0.
@@ -246,9 +222,9 @@ func TestSeparateFollowsTheDefinition(t *testing.T) {
 		checkSeparate(t, m, wordOf)
 	}
 	for seed := range 30 {
-		checkSeparate(t, scattered(4, 3, seed), wordOf)
-		checkSeparate(t, scattered(5, 2, seed), wordOf)
-		checkSeparate(t, scattered(6+seed%4, 2+seed%3, seed), searched)
+		checkSeparate(t, samples.Scattered(4, 3, seed), wordOf)
+		checkSeparate(t, samples.Scattered(5, 2, seed), wordOf)
+		checkSeparate(t, samples.Scattered(6+seed%4, 2+seed%3, seed), searched)
 	}
 }
 
@@ -334,7 +310,7 @@ func TestSeparatesRefuses(t *testing.T) {
 
 // P8.2, P8.4
 func TestWordsFollowTheDefinition(t *testing.T) {
-	for _, m := range append(samples.Small(), example(), forks(), scattered(6, 2, 1)) {
+	for _, m := range append(samples.Small(), example(), forks(), samples.Scattered(6, 2, 1)) {
 		for w := range words.All(m.Inputs, 3) {
 			p, e := After(m, w)
 			if e != api.OK || len(p) != len(m.Rows) || classes.Check(p) != api.OK {
@@ -553,7 +529,7 @@ func TestThereIsAWordOfEachLength(t *testing.T) {
 
 // P8.5
 func TestAThirdStateIsSeparatedFromOneOfBoth(t *testing.T) {
-	for _, m := range append(samples.Small(), example(), forks(), scattered(6, 2, 1)) {
+	for _, m := range append(samples.Small(), example(), forks(), samples.Scattered(6, 2, 1)) {
 		for w := range words.All(m.Inputs, 2) {
 			separates := func(s, t int) bool {
 				is, e := Separates(m, w, s, t)
