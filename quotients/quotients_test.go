@@ -82,22 +82,6 @@ func large() []api.Machine {
 	return l
 }
 
-// copied returns a machine in which so many states stand for each state of the given one. Each of them leads to another one of those for a next state, and some are not reached.
-func copied(m api.Machine, copies int) api.Machine {
-	n := len(m.Rows)
-	other := samples.Machine(m.Inputs, m.Outputs)
-	for s := range n * copies {
-		row := slices.Clone(m.Rows[s%n])
-		for i, x := range row {
-			if x != none {
-				row[i].To += (s/n + s + i) % copies * n
-			}
-		}
-		other.Rows = append(other.Rows, row)
-	}
-	return other
-}
-
 // answers returns the responses of a state to all words of a length, one after the other. Those to shorter words are the beginnings of these.
 func answers(t *testing.T, m api.Machine, s, length int) []int {
 	t.Helper()
@@ -226,7 +210,7 @@ func TestMinimalAndMap(t *testing.T) {
 
 // P9.1
 func TestMinimalAndMapFollowTheDefinition(t *testing.T) {
-	for _, m := range slices.Concat(samples.Small(), samples.All(3, 1, 3), scattered(), []api.Machine{example(), copied(exampleForm(), 3)}) {
+	for _, m := range slices.Concat(samples.Small(), samples.All(3, 1, 3), scattered(), []api.Machine{example(), samples.Copied(exampleForm(), 3)}) {
 		want, f := formOf(t, m)
 		form, e := Minimal(m)
 		if !machines.Same(form, want) || e != api.OK || !full(form) {
@@ -547,7 +531,7 @@ func TestCopiesOfStatesChangeNothing(t *testing.T) {
 		want, _ := Minimal(m)
 		f, _ := Map(m)
 		for copies := 1; copies*len(m.Rows) <= api.MaxStates; copies++ {
-			other := copied(m, copies)
+			other := samples.Copied(m, copies)
 			form, e := Minimal(other)
 			if !machines.Same(form, want) || e != api.OK {
 				t.Errorf("%v with each state %d times has the minimal form %v, error %d; want %v", m, copies, form, e, want)

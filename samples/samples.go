@@ -91,6 +91,22 @@ func Scattered(states, inputs, seed int) api.Machine {
 	return m
 }
 
+// Copied returns a machine in which so many states stand for each state of the given one. Each of them leads to another one of those for a next state, and some are not reached.
+func Copied(m api.Machine, copies int) api.Machine {
+	n := len(m.Rows)
+	other := Machine(m.Inputs, m.Outputs)
+	for s := range n * copies {
+		row := slices.Clone(m.Rows[s%n])
+		for i, x := range row {
+			if x != none {
+				row[i].To += (s/n + s + i) % copies * n
+			}
+		}
+		other.Rows = append(other.Rows, row)
+	}
+	return other
+}
+
 // Clone returns the same machine in other memory.
 func Clone(m api.Machine) api.Machine {
 	rows := slices.Clone(m.Rows)
