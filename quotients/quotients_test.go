@@ -54,16 +54,6 @@ func remainders(n, divisor int) []int {
 	return l
 }
 
-// isZero reports whether a machine is the zero value.
-func isZero(m api.Machine) bool {
-	return m.Inputs == 0 && m.Outputs == 0 && len(m.Rows) == 0
-}
-
-// full reports whether a machine has the capacity that it needs, and no more.
-func full(m api.Machine) bool {
-	return cap(m.Rows) == len(m.Rows) && !slices.ContainsFunc(m.Rows, func(row []api.Edge) bool { return cap(row) != len(row) })
-}
-
 // scattered returns machines whose edges follow no pattern, all of them with few enough states to try all words.
 func scattered() []api.Machine {
 	var l []api.Machine
@@ -198,7 +188,7 @@ func TestMinimalAndMap(t *testing.T) {
 		{"largest, another output", changed, changed, remainders(64, 64)},
 	} {
 		form, e := Minimal(x.m)
-		if !machines.Same(form, x.form) || e != api.OK || !full(form) {
+		if !machines.Same(form, x.form) || e != api.OK || !samples.Full(form) {
 			t.Errorf("Minimal, %s: %v, error %d; want %v", x.name, form, e, x.form)
 		}
 		states, e := Map(x.m)
@@ -213,7 +203,7 @@ func TestMinimalAndMapFollowTheDefinition(t *testing.T) {
 	for _, m := range slices.Concat(samples.Small(), samples.All(3, 1, 3), scattered(), []api.Machine{example(), samples.Copied(exampleForm(), 3)}) {
 		want, f := formOf(t, m)
 		form, e := Minimal(m)
-		if !machines.Same(form, want) || e != api.OK || !full(form) {
+		if !machines.Same(form, want) || e != api.OK || !samples.Full(form) {
 			t.Errorf("Minimal(%v) = %v, error %d; want %v", m, form, e, want)
 		}
 		states, e := Map(m)
@@ -414,7 +404,7 @@ func TestHomomorphicFollowsTheDefinition(t *testing.T) {
 // P9.1, P9.2, P9.3
 func TestTheMachineIsCheckedFirst(t *testing.T) {
 	for _, x := range samples.Invalid() {
-		if form, e := Minimal(x.M); !isZero(form) || e != x.Want {
+		if form, e := Minimal(x.M); !samples.IsZero(form) || e != x.Want {
 			t.Errorf("Minimal, %s: %v, error %d; want error %d", x.Name, form, e, x.Want)
 		}
 		if states, e := Map(x.M); len(states) != 0 || e != x.Want {

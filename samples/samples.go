@@ -116,6 +116,16 @@ func Clone(m api.Machine) api.Machine {
 	return Machine(m.Inputs, m.Outputs, rows...)
 }
 
+// IsZero reports whether a machine is the zero value.
+func IsZero(m api.Machine) bool {
+	return m.Inputs == 0 && m.Outputs == 0 && len(m.Rows) == 0
+}
+
+// Full reports whether a machine has the capacity that it needs, and no more.
+func Full(m api.Machine) bool {
+	return cap(m.Rows) == len(m.Rows) && !slices.ContainsFunc(m.Rows, func(row []api.Edge) bool { return cap(row) != len(row) })
+}
+
 // Changed returns a machine after a change, which may write into the rows of the given one.
 func Changed(m api.Machine, change func(m *api.Machine)) api.Machine {
 	change(&m)

@@ -42,11 +42,6 @@ func backwards(states int) api.Machine {
 	return m
 }
 
-// isZero reports whether a machine is the zero value.
-func isZero(m api.Machine) bool {
-	return m.Inputs == 0 && m.Outputs == 0 && len(m.Rows) == 0
-}
-
 // small returns all machines with three states, two inputs and an output, and all those with two states, two inputs and two outputs.
 func small() []api.Machine {
 	return slices.Concat(samples.All(3, 2, 1), samples.All(2, 2, 2))
@@ -151,11 +146,6 @@ func correspondingOf(a, b api.Machine) ([]int, bool) {
 // full reports whether lists have the capacity that they need, and no more.
 func full[E any](l ...[]E) bool {
 	return !slices.ContainsFunc(l, func(x []E) bool { return cap(x) != len(x) })
-}
-
-// fullMachine reports whether a machine has the capacity that it needs, and no more.
-func fullMachine(m api.Machine) bool {
-	return full(m.Rows) && full(m.Rows...)
 }
 
 // P6.1
@@ -353,7 +343,7 @@ func TestTrim(t *testing.T) {
 		if !machines.Same(got, x.want) || !slices.Equal(states, x.states) || e != api.OK {
 			t.Errorf("%s: %v, %v, error %d; want %v, %v", x.name, got, states, e, x.want, x.states)
 		}
-		if !fullMachine(got) || !full(states) {
+		if !samples.Full(got) || !full(states) {
 			t.Errorf("%s: more capacity than length", x.name)
 		}
 	}
@@ -405,7 +395,7 @@ func TestCanonical(t *testing.T) {
 		{"every other state of the largest in another order", numbered(samples.Changed(samples.Largest(), onlyEven), multiples(27)), halfOfLargest()},
 	} {
 		got, e := Canonical(x.m)
-		if !machines.Same(got, x.want) || e != api.OK || !fullMachine(got) {
+		if !machines.Same(got, x.want) || e != api.OK || !samples.Full(got) {
 			t.Errorf("%s: %v, error %d; want %v", x.name, got, e, x.want)
 		}
 		is, e := IsCanonical(x.m)
@@ -545,10 +535,10 @@ func TestTheMachineIsCheckedFirst(t *testing.T) {
 		if got, is, e := Access(x.M); len(got) != 0 || len(is) != 0 || e != x.Want {
 			t.Errorf("Access, %s: %v, %v, error %d; want error %d", x.Name, got, is, e, x.Want)
 		}
-		if got, l, e := Trim(x.M); !isZero(got) || len(l) != 0 || e != x.Want {
+		if got, l, e := Trim(x.M); !samples.IsZero(got) || len(l) != 0 || e != x.Want {
 			t.Errorf("Trim, %s: %v, %v, error %d; want error %d", x.Name, got, l, e, x.Want)
 		}
-		if got, e := Canonical(x.M); !isZero(got) || e != x.Want {
+		if got, e := Canonical(x.M); !samples.IsZero(got) || e != x.Want {
 			t.Errorf("Canonical, %s: %v, error %d; want error %d", x.Name, got, e, x.Want)
 		}
 		if is, e := IsCanonical(x.M); is || e != x.Want {
