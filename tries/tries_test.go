@@ -7,6 +7,7 @@ import (
 	"testing"
 
 	"gauntlet/api"
+	"gauntlet/samples/lists"
 	"gauntlet/tries"
 	"gauntlet/words"
 )
@@ -14,9 +15,9 @@ import (
 // trieOf returns by the definition the trie of ascending words, which may be more, and longer, than those of a valid list.
 func trieOf(l [][]int, inputs int) tries.Trie {
 	x := tries.Trie{Inputs: inputs}
-	prefixes := allPrefixes(l)
+	prefixes := lists.Prefixes(l)
 	for _, u := range prefixes {
-		node := tries.Node{End: contains(l, u)}
+		node := tries.Node{End: lists.Has(l, u)}
 		for i := range inputs {
 			n, found := slices.BinarySearchFunc(prefixes, append(slices.Clone(u), i), words.Compare)
 			if !found {
@@ -57,7 +58,7 @@ func bush(levels int) tries.Trie {
 		behind, width = behind+width, 16*width
 	}
 	for n := range behind + width {
-		row := repeat(api.None, 16)
+		row := lists.Repeat(api.None, 16)
 		for i := range row {
 			if n < behind {
 				row[i] = next
@@ -97,6 +98,11 @@ func code(x tries.Trie) string {
 	return string(b)
 }
 
+// brief returns the beginning of what a failure tells.
+func brief(s string) string {
+	return s[:min(len(s), 300)]
+}
+
 // wantTrie holds what was returned against a trie.
 func wantTrie(t *testing.T, name string, got tries.Trie, e api.Errno, want tries.Trie) {
 	t.Helper()
@@ -113,7 +119,7 @@ func wantOf(t *testing.T, name string, x tries.Trie, want [][]int) {
 	t.Helper()
 	got, e := tries.Words(x)
 	wantList(t, "Words of "+name, got, e, want)
-	if count, e := tries.Count(x); count != len(reduced(want)) || e != api.OK {
+	if count, e := tries.Count(x); count != len(lists.Reduced(want)) || e != api.OK {
 		t.Errorf("Count of %s: %d, error %d", name, count, e)
 	}
 }
@@ -122,7 +128,7 @@ func wantOf(t *testing.T, name string, x tries.Trie, want [][]int) {
 func wantNoTrie(t *testing.T, name string, x tries.Trie) {
 	t.Helper()
 	if l, e := tries.Words(x); e != api.ErrForm || len(l) != 0 {
-		t.Errorf("Words of %s: error %d, %s", name, e, brief(show(l)))
+		t.Errorf("Words of %s: error %d, %s", name, e, lists.Brief(l))
 	}
 	if count, e := tries.Count(x); e != api.ErrForm || count != 0 {
 		t.Errorf("Count of %s: error %d, %d", name, e, count)
@@ -151,13 +157,13 @@ func TestOf(t *testing.T) {
 		{"-, 1, 0 0, 0 1, 1 1 0", 2, trie(2, end(1, 2), inner(3, 4), end(no, 5), end(no, no), end(no, no), inner(6, no), end(no, no))},
 		{"1 0, 0 1 1", 2, trie(2, inner(1, 2), inner(no, 3), inner(4, no), inner(no, 5), end(no, no), end(no, no))},
 	} {
-		got, e := tries.Of(list(x.l), x.inputs)
+		got, e := tries.Of(lists.Of(x.l), x.inputs)
 		wantTrie(t, "Of "+x.l, got, e, x.want)
-		wantOf(t, "Of "+x.l, x.want, list(x.l))
+		wantOf(t, "Of "+x.l, x.want, lists.Of(x.l))
 	}
-	for _, x := range refused() {
-		if got, e := tries.Of(x.l, x.inputs); e != x.want || got.Inputs != 0 || len(got.Nodes) != 0 {
-			t.Errorf("%s: error %d, %s; want error %d", x.name, e, brief(code(got)), x.want)
+	for _, x := range lists.Refused() {
+		if got, e := tries.Of(x.L, x.Inputs); e != x.Want || got.Inputs != 0 || len(got.Nodes) != 0 {
+			t.Errorf("%s: error %d, %s; want error %d", x.Name, e, brief(code(got)), x.Want)
 		}
 	}
 }
@@ -167,8 +173,8 @@ func TestTriesByTheDefinition(t *testing.T) {
 	hold := func(l [][]int, inputs int) {
 		want := trieOf(l, inputs)
 		got, e := tries.Of(l, inputs)
-		wantTrie(t, "Of "+show(l), got, e, want)
-		wantOf(t, "the trie of "+show(l), want, l)
+		wantTrie(t, "Of "+lists.Text(l), got, e, want)
+		wantOf(t, "the trie of "+lists.Text(l), want, l)
 	}
 	for _, f := range families() {
 		for _, l := range f.lists {
@@ -188,13 +194,13 @@ func TestTriesUpToTheLimits(t *testing.T) {
 		inputs int
 		l      [][]int
 	}{
-		{"the longest word", 1, [][]int{repeat(0, 256)}},
+		{"the longest word", 1, [][]int{lists.Repeat(0, 256)}},
 		{"all words of one input", 1, zeros(256)},
-		{"as many words as there may be", 2, first(4096, 2, 12)},
-		{"as many words as there may be, of 16 inputs", 16, first(4096, 16, 3)},
-		{"as many symbols as there may be", 16, first(256, 16, 256)},
-		{"as many symbols as there may be, and the empty word", 16, slices.Concat(list("-"), first(256, 16, 256))},
-		{"as many words and symbols as there may be", 2, first(4096, 2, 16)},
+		{"as many words as there may be", 2, lists.First(4096, 2, 12)},
+		{"as many words as there may be, of 16 inputs", 16, lists.First(4096, 16, 3)},
+		{"as many symbols as there may be", 16, lists.First(256, 16, 256)},
+		{"as many symbols as there may be, and the empty word", 16, slices.Concat(lists.Of("-"), lists.First(256, 16, 256))},
+		{"as many words and symbols as there may be", 2, lists.First(4096, 2, 16)},
 	} {
 		want := trieOf(x.l, x.inputs)
 		got, e := tries.Of(x.l, x.inputs)
@@ -206,14 +212,14 @@ func TestTriesUpToTheLimits(t *testing.T) {
 		inputs int
 		l      [][]int
 	}{
-		{"a word too long", 1, [][]int{repeat(0, 257)}},
-		{"a word too long beside another one", 2, [][]int{{1}, repeat(0, 257)}},
-		{"a word too many", 16, first(4097, 16, 4)},
-		{"a word too many, the empty one", 16, slices.Concat(list("-"), first(4096, 16, 3))},
-		{"a symbol too many together", 16, slices.Concat(list("0"), first(256, 16, 256))},
-		{"far too many symbols together", 2, first(4096, 2, 20)},
-		{"too many inputs", 17, list("-, 0")},
-		{"far too many inputs", 300, list("-, 0")},
+		{"a word too long", 1, [][]int{lists.Repeat(0, 257)}},
+		{"a word too long beside another one", 2, [][]int{{1}, lists.Repeat(0, 257)}},
+		{"a word too many", 16, lists.First(4097, 16, 4)},
+		{"a word too many, the empty one", 16, slices.Concat(lists.Of("-"), lists.First(4096, 16, 3))},
+		{"a symbol too many together", 16, slices.Concat(lists.Of("0"), lists.First(256, 16, 256))},
+		{"far too many symbols together", 2, lists.First(4096, 2, 20)},
+		{"too many inputs", 17, lists.Of("-, 0")},
+		{"far too many inputs", 300, lists.Of("-, 0")},
 	} {
 		wantNoTrie(t, x.name, trieOf(x.l, x.inputs))
 	}
@@ -256,7 +262,7 @@ func TestTriesAreRefused(t *testing.T) {
 		{"no inputs, but next ones", trie(0, inner(1), end(no))},
 		{"negative inputs", trie(-1, end())},
 		{"extreme inputs", trie(math.MaxInt, end(no))},
-		{"17 inputs", trie(17, end(repeat(no, 17)...))},
+		{"17 inputs", trie(17, end(lists.Repeat(no, 17)...))},
 		{"a leaf that is no end", trie(2, inner(no, no))},
 		{"leaves of which one is no end", trie(2, inner(1, 2), end(no, no), inner(no, no))},
 		{"a leaf behind an end that is none", trie(1, end(1), inner(no))},
@@ -291,8 +297,8 @@ func TestTriesAreRefused(t *testing.T) {
 	} {
 		wantNoTrie(t, x.name, x.x)
 	}
-	wantOf(t, "256 symbols", chain(257), [][]int{repeat(0, 256)})
-	wantOf(t, "4096 words", bush(3), first(4096, 16, 3))
+	wantOf(t, "256 symbols", chain(257), [][]int{lists.Repeat(0, 256)})
+	wantOf(t, "4096 words", bush(3), lists.First(4096, 16, 3))
 }
 
 // P12.8
@@ -350,9 +356,9 @@ func TestChangedTries(t *testing.T) {
 		for _, inputs := range []int{0, -1, x.inputs - 1, x.inputs + 1, math.MaxInt} {
 			wantNoTrie(t, "other inputs", trie(inputs, whole.Nodes...))
 		}
-		wantNoTrie(t, "a node more", trie(x.inputs, append(slices.Clone(whole.Nodes), end(repeat(api.None, x.inputs)...))...))
+		wantNoTrie(t, "a node more", trie(x.inputs, append(slices.Clone(whole.Nodes), end(lists.Repeat(api.None, x.inputs)...))...))
 		wantNoTrie(t, "a node less", trie(x.inputs, whole.Nodes[:len(whole.Nodes)-1]...))
-		prefixes := allPrefixes(x.l)
+		prefixes := lists.Prefixes(x.l)
 		for n, node := range whole.Nodes {
 			other := copiedTrie(whole)
 			other.Nodes[n].End = !node.End
@@ -361,7 +367,7 @@ func TestChangedTries(t *testing.T) {
 			} else if node.End {
 				wantOf(t, "an end less", other, slices.DeleteFunc(slices.Clone(x.l), func(w []int) bool { return slices.Equal(w, prefixes[n]) }))
 			} else {
-				wantOf(t, "an end more", other, sorted(append(slices.Clone(x.l), prefixes[n])))
+				wantOf(t, "an end more", other, lists.Sorted(append(slices.Clone(x.l), prefixes[n])))
 			}
 			other = copiedTrie(whole)
 			i := n % x.inputs
@@ -378,8 +384,8 @@ func TestChangedTries(t *testing.T) {
 // wantSame fails unless two ways lead to the same list.
 func wantSame(t *testing.T, name string, a [][]int, e api.Errno, b [][]int, f api.Errno) {
 	t.Helper()
-	if e != api.OK || f != api.OK || !same(a, b) {
-		t.Errorf("%s: error %d, %s; but error %d, %s", name, e, brief(show(a)), f, brief(show(b)))
+	if e != api.OK || f != api.OK || !lists.Same(a, b) {
+		t.Errorf("%s: error %d, %s; but error %d, %s", name, e, lists.Brief(a), f, lists.Brief(b))
 	}
 }
 
@@ -402,9 +408,9 @@ func TestConsequencesForOneList(t *testing.T) {
 		wantSame(t, "prefixes of the reduced list", before, e, prefixes, f)
 		reducedPrefixes, e := tries.Reduce(prefixes, inputs)
 		wantSame(t, "the reduced list of the prefixes", reducedPrefixes, e, once, api.OK)
-		more, e := tries.Concat(list("-"), l, inputs)
+		more, e := tries.Concat(lists.Of("-"), l, inputs)
 		wantSame(t, "the empty word in front", more, e, l, api.OK)
-		more, e = tries.Concat(l, list("-"), inputs)
+		more, e = tries.Concat(l, lists.Of("-"), inputs)
 		wantSame(t, "the empty word behind", more, e, l, api.OK)
 	}
 	for _, f := range families() {
@@ -415,8 +421,8 @@ func TestConsequencesForOneList(t *testing.T) {
 	for _, x := range largerLists() {
 		hold(x.l, x.inputs)
 	}
-	hold(first(3840, 16, 3), 16)
-	hold([][]int{repeat(1, 255), repeat(0, 256)}, 2)
+	hold(lists.First(3840, 16, 3), 16)
+	hold([][]int{lists.Repeat(1, 255), lists.Repeat(0, 256)}, 2)
 }
 
 // P12.9
@@ -453,7 +459,7 @@ func TestConsequencesForSeveralLists(t *testing.T) {
 	}
 	for seed := range 60 {
 		inputs := 1 + seed%16
-		hold(scattered(inputs, 4+seed%5, 6, seed), scattered(inputs, 6, 9, seed+100), scattered(inputs, 8, 5, seed+200), inputs)
+		hold(lists.Scattered(inputs, 4+seed%5, 6, seed), lists.Scattered(inputs, 6, 9, seed+100), lists.Scattered(inputs, 8, 5, seed+200), inputs)
 	}
 }
 
@@ -475,29 +481,10 @@ func TestConsequencesForAllWords(t *testing.T) {
 	}
 }
 
-// spare returns a list with more capacity than length.
-func spare(s string) [][]int {
-	l := append(make([][]int, 0, 20), list(s)...)
-	for n, w := range l {
-		l[n] = append(make([]int, 0, 20), w...)
-	}
-	return l
-}
-
-// isSpare reports whether a list made by spare is still the same, with nothing behind it.
-func isSpare(l [][]int, s string) bool {
-	for _, w := range l {
-		if !slices.Equal(w[:20][len(w):], repeat(0, 20-len(w))) {
-			return false
-		}
-	}
-	return show(l) == s && !slices.ContainsFunc(l[:20][len(l):], func(w []int) bool { return w != nil })
-}
-
 // Rules R1 and R4: arguments stay as they are, and results share memory neither with them nor with each other.
 func TestListsAreNeitherChangedNorShared(t *testing.T) {
 	const textA, textB, textC = "-, 0, 1, 0 1, 1 1 0", "0, 1 0, 1 1", "1 1, 0, 1 1, -, 1, 1 1, 0"
-	a, b, c := spare(textA), spare(textB), spare(textC)
+	a, b, c := lists.Spare(textA), lists.Spare(textB), lists.Spare(textC)
 	x, _ := tries.Of(a, 2)
 	before := copiedTrie(x)
 	for _, call := range []struct {
@@ -521,26 +508,19 @@ func TestListsAreNeitherChangedNorShared(t *testing.T) {
 		{"Words", func() ([][]int, api.Errno) { return tries.Words(x) }},
 	} {
 		got, e := call.make()
-		want := copied(got)
+		want := lists.Copy(got)
 		if e != api.OK || len(got) < 2 {
-			t.Fatalf("%s: error %d, %s", call.name, e, show(got))
+			t.Fatalf("%s: error %d, %s", call.name, e, lists.Text(got))
 		}
 		// What is written into a word changes no other one, no argument, and no later result.
-		for n, w := range got {
-			for k := range w {
-				w[k] = 50 + n
-			}
-		}
-		for n, w := range got {
-			if !slices.Equal(w, repeat(50+n, len(w))) {
-				t.Errorf("%s: words share their memory: %s", call.name, show(got))
-			}
+		if !lists.Separate(got) {
+			t.Errorf("%s: words share their memory: %s", call.name, lists.Text(got))
 		}
 		got[0] = nil
 		got, e = call.make()
 		wantList(t, call.name+" again", got, e, want)
-		if !isSpare(a, textA) || !isSpare(b, textB) || !isSpare(c, textC) || !sameTrie(x, before) {
-			t.Fatalf("%s: changed: %s; %s; %s; %s", call.name, show(a), show(b), show(c), code(x))
+		if !lists.IsSpare(a, textA) || !lists.IsSpare(b, textB) || !lists.IsSpare(c, textC) || !sameTrie(x, before) {
+			t.Fatalf("%s: changed: %s; %s; %s; %s", call.name, lists.Text(a), lists.Text(b), lists.Text(c), code(x))
 		}
 	}
 }
@@ -548,7 +528,7 @@ func TestListsAreNeitherChangedNorShared(t *testing.T) {
 // Rules R1 and R4: the same for what is no list of words.
 func TestTriesAreNeitherChangedNorShared(t *testing.T) {
 	const text = "0, 1, 0 1, 1 1 0"
-	l := spare(text)
+	l := lists.Spare(text)
 	want := trieOf(l, 2)
 	got, e := tries.Of(l, 2)
 	for n := range got.Nodes {
@@ -557,7 +537,7 @@ func TestTriesAreNeitherChangedNorShared(t *testing.T) {
 		}
 	}
 	for n, x := range got.Nodes {
-		if e != api.OK || !slices.Equal(x.Next, repeat(50+n, 2)) {
+		if e != api.OK || !slices.Equal(x.Next, lists.Repeat(50+n, 2)) {
 			t.Errorf("nodes share their memory: error %d, %s", e, code(got))
 		}
 	}
@@ -574,7 +554,7 @@ func TestTriesAreNeitherChangedNorShared(t *testing.T) {
 			t.Errorf("Has: %v, error %d; Steps: %d, error %d; Check: error %d", has, e, steps, f, g)
 		}
 	}
-	if !isSpare(l, text) || !slices.Equal(w[:20], append([]int{1, 1}, repeat(0, 18)...)) {
-		t.Errorf("changed: %s; %v", show(l), w[:20])
+	if !lists.IsSpare(l, text) || !slices.Equal(w[:20], append([]int{1, 1}, lists.Repeat(0, 18)...)) {
+		t.Errorf("changed: %s; %v", lists.Text(l), w[:20])
 	}
 }
