@@ -17,14 +17,6 @@ import (
 	"gauntlet/words"
 )
 
-// example returns the machine of the chapter's examples.
-func example() api.Machine {
-	return samples.Machine(2, 2,
-		[]api.Edge{{To: 1, Out: 0}, {To: 0, Out: 0}},
-		[]api.Edge{{To: 2, Out: 0}, {To: 1, Out: 1}},
-		[]api.Edge{{To: 0, Out: 1}, {To: 2, Out: 0}})
-}
-
 // table returns a machine with these outputs of its states, no two of which may have the same ones: so all words of W have one symbol.
 func table(outs ...[]int) api.Machine {
 	m := samples.Machine(len(outs[0]), 10)
@@ -190,7 +182,7 @@ func TestAllOfAndFewest(t *testing.T) {
 		all, fewest string
 		each        []string
 	}{
-		{"example", example(), "0, 1", "0, 1", []string{"0, 1", "0, 1", "0"}},
+		{"example", propers.Example(), "0, 1", "0, 1", []string{"0, 1", "0, 1", "0"}},
 		{"one state", propers.Resting(1), "", "", []string{""}},
 		{"one state, 16 inputs", propers.Resting(16), "", "", []string{""}},
 		{"two states", propers.Late(2), "0", "0", []string{"0", "0"}},
@@ -310,15 +302,15 @@ func TestIsSet(t *testing.T) {
 		l    string
 		want bool
 	}{
-		{"example, one word", example(), "0", false},
-		{"example, the other word", example(), "1", false},
-		{"example, one word that is not in W", example(), "0 0", true},
-		{"example, W", example(), "0, 1", true},
-		{"example, a long word that does not", example(), "1 1 1 1", false},
-		{"example, no words", example(), "", false},
-		{"example, the empty word", example(), "-", false},
-		{"example, more words than it needs", example(), "-, 0, 1, 0 0, 1 1 1", true},
-		{"example, words of different lengths", example(), "1, 0 1 0 1", true},
+		{"example, one word", propers.Example(), "0", false},
+		{"example, the other word", propers.Example(), "1", false},
+		{"example, one word that is not in W", propers.Example(), "0 0", true},
+		{"example, W", propers.Example(), "0, 1", true},
+		{"example, a long word that does not", propers.Example(), "1 1 1 1", false},
+		{"example, no words", propers.Example(), "", false},
+		{"example, the empty word", propers.Example(), "-", false},
+		{"example, more words than it needs", propers.Example(), "-, 0, 1, 0 0, 1 1 1", true},
+		{"example, words of different lengths", propers.Example(), "1, 0 1 0 1", true},
 		{"one state, no words", propers.Resting(2), "", true},
 		{"one state, the empty word", propers.Resting(2), "-", true},
 		{"one state, words", propers.Resting(2), "0, 1 1", true},
@@ -385,7 +377,7 @@ func TestListsByTheDefinition(t *testing.T) {
 
 // P14.2
 func TestSetsWithoutOneWord(t *testing.T) {
-	for _, m := range append(propers.Some(), example()) {
+	for _, m := range append(propers.Some(), propers.Example()) {
 		_, all := ofEach(m, tabled(m))
 		// With more words than these it would take long.
 		if len(all) > 30 {
@@ -412,12 +404,12 @@ func TestSignature(t *testing.T) {
 		s    int
 		want string
 	}{
-		{"example", example(), "0, 1", 0, "0, 0"},
-		{"example", example(), "0, 1", 1, "0, 1"},
-		{"example", example(), "0, 1", 2, "1, 0"},
-		{"no words", example(), "", 1, ""},
-		{"the empty word", example(), "-", 1, "-"},
-		{"not in the order of words", example(), "-, 0, 0 0, 1 0 0", 1, "-, 0, 0 1, 1 0 1"},
+		{"example", propers.Example(), "0, 1", 0, "0, 0"},
+		{"example", propers.Example(), "0, 1", 1, "0, 1"},
+		{"example", propers.Example(), "0, 1", 2, "1, 0"},
+		{"no words", propers.Example(), "", 1, ""},
+		{"the empty word", propers.Example(), "-", 1, "-"},
+		{"not in the order of words", propers.Example(), "-, 0, 0 0, 1 0 0", 1, "-, 0, 0 1, 1 0 1"},
 		{"outputs of two digits", samples.Ring(12), "0, 0 0 0", 10, "10, 10 11 0"},
 		{"one state", propers.Resting(2), "1, 0 1", 0, "0, 0 0"},
 	} {
@@ -435,22 +427,22 @@ func TestIdentify(t *testing.T) {
 		responses [][]int
 		want      []int
 	}{
-		{"example", example(), "0, 1", [][]int{{0}, {0}}, []int{0}},
-		{"example", example(), "0, 1", [][]int{{0}, {1}}, []int{1}},
-		{"example", example(), "0, 1", [][]int{{1}, {0}}, []int{2}},
-		{"outputs that no state has together", example(), "0, 1", [][]int{{1}, {1}}, nil},
-		{"two states", example(), "0", [][]int{{0}}, []int{0, 1}},
-		{"an output that no state has", example(), "0", [][]int{{7}}, nil},
-		{"None", example(), "0", [][]int{{-1}}, nil},
-		{"extreme", example(), "0, 1", [][]int{{math.MinInt}, {math.MaxInt}}, nil},
-		{"beyond the outputs that there may be", example(), "0", [][]int{{256}}, nil},
-		{"as many as four times 2^32", example(), "0", [][]int{{1 << 34}}, nil},
-		{"an output of one state, and then of another one", example(), "0 0", [][]int{{1, 1}}, nil},
-		{"the same responses in another order", example(), "0, 1 0", [][]int{{0}, {0, 0}}, []int{0}},
-		{"no words", example(), "", nil, []int{0, 1, 2}},
-		{"no words, no responses", example(), "", [][]int{}, []int{0, 1, 2}},
-		{"the empty word", example(), "-", [][]int{{}}, []int{0, 1, 2}},
-		{"the empty word, nil", example(), "-, 0", [][]int{nil, {1}}, []int{2}},
+		{"example", propers.Example(), "0, 1", [][]int{{0}, {0}}, []int{0}},
+		{"example", propers.Example(), "0, 1", [][]int{{0}, {1}}, []int{1}},
+		{"example", propers.Example(), "0, 1", [][]int{{1}, {0}}, []int{2}},
+		{"outputs that no state has together", propers.Example(), "0, 1", [][]int{{1}, {1}}, nil},
+		{"two states", propers.Example(), "0", [][]int{{0}}, []int{0, 1}},
+		{"an output that no state has", propers.Example(), "0", [][]int{{7}}, nil},
+		{"None", propers.Example(), "0", [][]int{{-1}}, nil},
+		{"extreme", propers.Example(), "0, 1", [][]int{{math.MinInt}, {math.MaxInt}}, nil},
+		{"beyond the outputs that there may be", propers.Example(), "0", [][]int{{256}}, nil},
+		{"as many as four times 2^32", propers.Example(), "0", [][]int{{1 << 34}}, nil},
+		{"an output of one state, and then of another one", propers.Example(), "0 0", [][]int{{1, 1}}, nil},
+		{"the same responses in another order", propers.Example(), "0, 1 0", [][]int{{0}, {0, 0}}, []int{0}},
+		{"no words", propers.Example(), "", nil, []int{0, 1, 2}},
+		{"no words, no responses", propers.Example(), "", [][]int{}, []int{0, 1, 2}},
+		{"the empty word", propers.Example(), "-", [][]int{{}}, []int{0, 1, 2}},
+		{"the empty word, nil", propers.Example(), "-, 0", [][]int{nil, {1}}, []int{2}},
 		{"one state", propers.Resting(1), "0", [][]int{{0}}, []int{0}},
 		{"one state, no words", propers.Resting(1), "", nil, []int{0}},
 		{"one state, another output", propers.Resting(1), "0", [][]int{{1}}, nil},
@@ -485,7 +477,7 @@ func TestIdentifyRefuses(t *testing.T) {
 		{"behind an output that no state has", "0, 0 0", [][]int{{9}, {0}}},
 		{"a response that is longer than words", "0", [][]int{lists.Repeat(0, 257)}},
 	} {
-		for _, m := range []api.Machine{example(), propers.Resting(2), propers.Slow(64)} {
+		for _, m := range []api.Machine{propers.Example(), propers.Resting(2), propers.Slow(64)} {
 			if got, e := idents.Identify(m, lists.Of(x.l), x.responses); e != api.ErrCount || got != nil {
 				t.Errorf("%s: %v, error %d", x.name, got, e)
 			}
@@ -554,13 +546,13 @@ func TestListsAreRefused(t *testing.T) {
 			}
 		}
 	}
-	wantNothing(t, "a symbol that another machine has", example(), lists.Of("2"), 0, api.ErrArg)
-	wantNothing(t, "behind words that tell all states apart", example(), lists.Of("0, 1, 0 2"), 0, api.ErrArg)
+	wantNothing(t, "a symbol that another machine has", propers.Example(), lists.Of("2"), 0, api.ErrArg)
+	wantNothing(t, "behind words that tell all states apart", propers.Example(), lists.Of("0, 1, 0 2"), 0, api.ErrArg)
 }
 
 // P14.1, P14.4
 func TestStatesAreRefused(t *testing.T) {
-	for _, m := range append(propers.Large(), example(), propers.Resting(1), propers.Late(2)) {
+	for _, m := range append(propers.Large(), propers.Example(), propers.Resting(1), propers.Late(2)) {
 		n := len(m.Rows)
 		for _, s := range []int{-1, -2, n, n + 1, 64, 65, math.MinInt, math.MaxInt} {
 			got, e := idents.Of(m, s)
@@ -622,7 +614,7 @@ func TestConsequences(t *testing.T) {
 			}
 		}
 	}
-	for _, m := range slices.Concat(propers.Small(), propers.Some(), []api.Machine{example()}) {
+	for _, m := range slices.Concat(propers.Small(), propers.Some(), []api.Machine{propers.Example()}) {
 		hold(m)
 	}
 	for n, m := range propers.Threes() {
@@ -636,7 +628,7 @@ func TestConsequences(t *testing.T) {
 func TestArgumentsAreNeitherChangedNorShared(t *testing.T) {
 	const text = "-, 0, 1, 0 1, 1 0 0"
 	const told = "-, 0, 0, 0 1, 0 0 0"
-	m, l, responses := example(), lists.Spare(text), lists.Spare(told)
+	m, l, responses := propers.Example(), lists.Spare(text), lists.Spare(told)
 	before := samples.Clone(m)
 	for _, call := range []struct {
 		name string

@@ -67,12 +67,17 @@ func Large() []api.Machine {
 	return []api.Machine{Chain(64), Chain(63), Ring(64), Ring(63), Largest(), LargestBut(none), LargestBut(api.Edge{To: 15, Out: 14})}
 }
 
-// Scattered returns a machine whose edges follow no pattern; another seed makes another one. Most edges have the output 0, few of them are undefined: so states are hard to tell apart.
-func Scattered(states, inputs, seed int) api.Machine {
-	next := func(below int) int {
+// Numbers returns a function that tells one number after the other, from 0 to below - 1, that follow no pattern; another seed makes others.
+func Numbers(seed int) func(below int) int {
+	return func(below int) int {
 		seed = (seed*1103515245 + 12345) % (1 << 31)
 		return seed >> 8 % below
 	}
+}
+
+// Scattered returns a machine whose edges follow no pattern; another seed makes another one. Most edges have the output 0, few of them are undefined: so states are hard to tell apart.
+func Scattered(states, inputs, seed int) api.Machine {
+	next := Numbers(seed)
 	m := Machine(inputs, 2)
 	for range states {
 		row := make([]api.Edge, inputs)

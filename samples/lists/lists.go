@@ -7,6 +7,7 @@ import (
 	"strings"
 
 	"gauntlet/api"
+	"gauntlet/samples"
 	"gauntlet/words"
 )
 
@@ -85,10 +86,7 @@ func All(inputs, most int, holds func(w []int) bool) [][]int {
 
 // Scattered returns a list that follows no pattern; another seed makes another one.
 func Scattered(inputs, count, most, seed int) [][]int {
-	next := func(below int) int {
-		seed = (seed*1103515245 + 12345) % (1 << 31)
-		return seed >> 8 % below
-	}
+	next := samples.Numbers(seed)
 	var l [][]int
 	for range count {
 		w := make([]int, next(most+1))

@@ -12,6 +12,14 @@ import (
 // none is the undefined edge.
 var none = api.Edge{To: api.None, Out: api.None}
 
+// Example returns the machine of the examples of chapter 14, and of chapters after it.
+func Example() api.Machine {
+	return samples.Machine(2, 2,
+		[]api.Edge{{To: 1, Out: 0}, {To: 0, Out: 0}},
+		[]api.Edge{{To: 2, Out: 0}, {To: 1, Out: 1}},
+		[]api.Edge{{To: 0, Out: 1}, {To: 2, Out: 0}})
+}
+
 // only returns those of some machines that are proper.
 func only(all []api.Machine) []api.Machine {
 	return slices.DeleteFunc(all, func(m api.Machine) bool { return quotients.Proper(m) != api.OK })
@@ -71,12 +79,21 @@ func Doors(inputs int) api.Machine {
 	return m
 }
 
+// proper returns a complete machine, or its minimal form if it is not proper.
+func proper(m api.Machine) api.Machine {
+	if quotients.Proper(m) == api.OK {
+		return m
+	}
+	form, e := quotients.Minimal(m)
+	if e != api.OK {
+		panic("a machine is not valid")
+	}
+	return form
+}
+
 // Scattered returns a machine whose edges follow no pattern, or its minimal form if it is not proper; another seed makes another one. Of so many edges about one has an output other than 0.
 func Scattered(states, inputs, outputs, rare, seed int) api.Machine {
-	next := func(below int) int {
-		seed = (seed*1103515245 + 12345) % (1 << 31)
-		return seed >> 8 % below
-	}
+	next := samples.Numbers(seed)
 	m := samples.Machine(inputs, outputs)
 	for range states {
 		row := make([]api.Edge, inputs)
@@ -88,14 +105,33 @@ func Scattered(states, inputs, outputs, rare, seed int) api.Machine {
 		}
 		m.Rows = append(m.Rows, row)
 	}
-	if quotients.Proper(m) == api.OK {
-		return m
+	return proper(m)
+}
+
+// Shuffled returns a machine, or its minimal form if it is not proper, that with an input goes from different states mostly to different ones: so what was not told apart often still can be, and some words that tell states apart are long. Another seed makes another machine. Of so many edges about one has an output other than 0.
+func Shuffled(states, inputs, outputs, rare, seed int) api.Machine {
+	next := samples.Numbers(seed)
+	m := samples.Machine(inputs, outputs)
+	for range states {
+		m.Rows = append(m.Rows, make([]api.Edge, inputs))
 	}
-	form, e := quotients.Minimal(m)
-	if e != api.OK {
-		panic("a machine is not valid")
+	for i := range inputs {
+		for s := range states {
+			// Exchanged with one of those before, each order of the states may come about.
+			other := next(s + 1)
+			m.Rows[s][i].To = m.Rows[other][i].To
+			m.Rows[other][i].To = s
+		}
+		for _, row := range m.Rows {
+			if next(8) == 0 {
+				row[i].To = next(states)
+			}
+			if next(rare) == 0 {
+				row[i].Out = next(outputs)
+			}
+		}
 	}
-	return form
+	return proper(m)
 }
 
 // Large returns machines with as many states as there may be, or one less.
